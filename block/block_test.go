@@ -1,43 +1,22 @@
 package block
 
 import (
-	"math"
 	"reflect"
 	"slices"
-	"strconv"
 	"strings"
 	"testing"
 
 	"foliot/api"
+	"foliot/sample"
 	"foliot/task"
 )
 
-// words reads a program, a word an instruction: s (a Set), m (a Mark); with a number behind it k (a Skip), l and u (a Lock, an Unlock); r2x3 is a Rep whose body are 2 instructions, 3 times. An End is put behind it; no words are no program.
-func words(s string) []api.Inst {
-	var l []api.Inst
-	for _, w := range strings.Fields(s) {
-		first, second, _ := strings.Cut(w[1:], "x")
-		n, _ := strconv.Atoi(first)
-		times, _ := strconv.Atoi(second)
-		switch w[0] {
-		case 's':
-			l = append(l, api.Inst{Op: api.Set, A: 2, N: 3})
-		case 'm':
-			l = append(l, api.Inst{Op: api.Mark})
-		case 'k':
-			l = append(l, api.Inst{Op: api.Skip, A: 3, N: n})
-		case 'r':
-			l = append(l, api.Inst{Op: api.Rep, B: n, N: times})
-		case 'l':
-			l = append(l, api.Inst{Op: api.Lock, A: n})
-		case 'u':
-			l = append(l, api.Inst{Op: api.Unlock, A: n})
-		}
-	}
-	if l == nil {
+// program is these words with an End behind them; no words are no program.
+func program(s string) []api.Inst {
+	if s == "" {
 		return nil
 	}
-	return append(l, api.Inst{})
+	return sample.Program(s)
 }
 
 // row is a row of tasks, a text each: its Main, behind a comma its Way, behind another one its Opt.
@@ -45,39 +24,9 @@ func row(texts ...string) []api.Task {
 	var l []api.Task
 	for at, s := range texts {
 		part := append(strings.Split(s, ","), "", "")
-		l = append(l, api.Task{Rank: 1 + 7*at, Period: api.MaxEnd, End: api.MaxEnd, Main: words(part[0]), Way: words(part[1]), Opt: words(part[2])})
+		l = append(l, api.Task{Rank: 1 + 7*at, Period: api.MaxEnd, End: api.MaxEnd, Main: program(part[0]), Way: program(part[1]), Opt: program(part[2])})
 	}
 	return l
-}
-
-// roomy is a copy of l with some room behind it and behind each program, in which there stands what locks all there is.
-func roomy(l []api.Task) []api.Task {
-	long := row("l0 s s s s s u0", "l1 s s s s s u1", "l2 s s s s s u2", "l3 s s s s s u3")
-	room := func(x []api.Inst) []api.Inst {
-		return append(slices.Clone(x), words("l0 s u0 l1 s u1 l2 s u2 l3 s u3")...)[:len(x)]
-	}
-	all := append(slices.Clone(l), long...)
-	for at := range all {
-		x := &all[at]
-		x.Main, x.Way, x.Opt = room(x.Main), room(x.Way), room(x.Opt)
-	}
-	return all[:len(l)]
-}
-
-// memory is a copy of all that stands in the memory of l and of its programs, spare room too.
-func memory(l []api.Task) []api.Task {
-	all := slices.Clone(l[:cap(l)])
-	for at := range all {
-		x := &all[at]
-		x.Main, x.Way, x.Opt = slices.Clone(x.Main[:cap(x.Main)]), slices.Clone(x.Way[:cap(x.Way)]), slices.Clone(x.Opt[:cap(x.Opt)])
-	}
-	return all
-}
-
-// numbers are semaphores and places, most of them none: below 0, beyond, where fewer bits end, and as far off as there are.
-var numbers = []int{
-	math.MinInt, math.MinInt + 1, -1 << 62, -1<<32 + 1, -1 << 32, math.MinInt32, -256, -255, -8, -2, -1,
-	0, 1, 2, 3, 4, 5, 7, 8, 9, 63, 64, 127, 128, 255, 256, 257, 1 << 14, 1 << 16, math.MaxInt32, 1 << 32, 1<<32 + 1, 1 << 62, math.MaxInt - 1, math.MaxInt,
 }
 
 // told is what Ceil tells of each semaphore, and By of each place.
@@ -89,13 +38,13 @@ type told struct {
 // ask tells what Ceil and By tell of l. It asks all of it twice, and that l stays as it is.
 func ask(t *testing.T, l []api.Task) told {
 	t.Helper()
-	l = roomy(l)
-	same, was := slices.Clone(l), memory(l)
+	l = sample.Roomy(l)
+	same, was := slices.Clone(l), sample.Memory(l)
 	got, again := asked(l), asked(l)
 	if got.ceils != again.ceils || !slices.Equal(got.by, again.by) {
 		t.Errorf("%v: %v, then %v", l, got, again)
 	}
-	if !reflect.DeepEqual(l, same) || !reflect.DeepEqual(memory(l), was) {
+	if !reflect.DeepEqual(l, same) || !reflect.DeepEqual(sample.Memory(l), was) {
 		t.Errorf("%v became %v", was, l)
 	}
 	return got
@@ -116,7 +65,7 @@ func asked(l []api.Task) told {
 // nowhere asks Ceil of what is no semaphore, and By of what is no place: nobody locks it, nobody is held up there.
 func nowhere(t *testing.T, l []api.Task) {
 	t.Helper()
-	for _, n := range numbers {
+	for _, n := range sample.Numbers() {
 		if c := Ceil(l, n); c != api.MaxTasks && (n < 0 || n >= api.MaxSemas) {
 			t.Errorf("%v: Ceil of %d: %d", l, n, c)
 		}
@@ -196,7 +145,7 @@ func TestNowhere(t *testing.T) {
 	for n := range api.MaxTasks + 1 {
 		l := row(slices.Repeat([]string{"l0 s u0 l1 u1 l2 s s u2 l3 u3"}, n)...)
 		isRow(t, l)
-		nowhere(t, roomy(l))
+		nowhere(t, sample.Roomy(l))
 		for s := range api.MaxSemas {
 			if c := Ceil(l, s); n > 0 && c != 0 {
 				t.Errorf("%d of %d: %d", s, n, c)
@@ -338,34 +287,13 @@ func TestAllShort(t *testing.T) {
 	rows(nil)
 }
 
-// chance is a run of numbers that goes on from itself.
-type chance uint64
-
-func (c *chance) below(n int) int {
-	*c = *c*6364136223846793005 + 1442695040888963407
-	return int(uint64(*c)>>33) % n
-}
-
-// program is the words of some program: pieces, one behind the other.
-func program(c *chance, most int) string {
-	pieces := []string{
-		"s", "s", "m", "k2 s s", "r2x3 s s", "l0 u0", "l1 s u1", "l2 s s u2", "l3 s s s u3", "l3 l0 s u0 u3", "l1 s l2 u2 u1",
-		"r3x4 l1 s u1", "l2 r2x9 s s u2", "k3 l3 s u3", "l0 k1 s u0",
-	}
-	s := pieces[c.below(len(pieces))]
-	for range c.below(most) {
-		s += " " + pieces[c.below(len(pieces))]
-	}
-	return s
-}
-
 // tasks is a row of n tasks of such programs.
-func tasks(c *chance, n int) []api.Task {
+func tasks(c *sample.Chance, n int) []api.Task {
 	var l []api.Task
 	for at := range n {
-		x := row(program(c, 4))[0]
-		x.Rank = at*8 + c.below(8)
-		if way := words(program(c, 3)); c.below(2) == 0 {
+		x := row(sample.Pieces(c, 4))[0]
+		x.Rank = at*8 + c.Below(8)
+		if way := sample.Program(sample.Pieces(c, 3)); c.Below(2) == 0 {
 			x.Way = way
 		}
 		if task.May(x) != api.OK { // the Way is the longer one
@@ -378,7 +306,7 @@ func tasks(c *chance, n int) []api.Task {
 
 // P16.1: rows of some programs, as many tasks as may be.
 func TestSome(t *testing.T) {
-	c := chance(7)
+	c := sample.Chance(7)
 	for n := range 2000 {
 		agree(t, tasks(&c, n%(api.MaxTasks+1)))
 	}
@@ -386,7 +314,7 @@ func TestSome(t *testing.T) {
 
 // 'What follows': who locks nothing holds up nobody: with it in a row, wherever, all the others are held up just as without it; and what it is held up itself, the one that takes its place would be.
 func TestWhoLocksNothing(t *testing.T) {
-	c := chance(9)
+	c := sample.Chance(9)
 	idle := row("s r2x20 s s m k1 s,m s s,r1x20 s")[0]
 	for n := range 400 {
 		l := tasks(&c, n%api.MaxTasks)
@@ -440,30 +368,24 @@ func TestNoRow(t *testing.T) {
 
 // R1 and R3: whatever there is in a row: no panic, nothing changed, the same again.
 func TestWhatever(t *testing.T) {
-	c := chance(3)
-	some := func() int { return numbers[c.below(len(numbers))] }
-	junk := func() []api.Inst {
-		l := make([]api.Inst, c.below(30))
-		for at := range l {
-			l[at] = api.Inst{Op: c.below(14) - 1, A: c.below(6) - 1, B: some(), N: some()}
-		}
-		return l
-	}
+	c := sample.Chance(3)
+	numbers := sample.Numbers()
+	some := func() int { return numbers[c.Below(len(numbers))] }
 	for n := range 1500 {
 		l := tasks(&c, n%(api.MaxTasks+3))
 		for at := range l {
 			x := &l[at]
-			switch c.below(10) {
+			switch c.Below(10) {
 			case 0:
 				x.Rank = some()
 			case 1:
 				x.Period, x.End = int64(some()), int64(some())
 			case 2:
-				x.Main = junk()
+				x.Main = sample.Junk(&c)
 			case 3:
-				x.Way = junk()
+				x.Way = sample.Junk(&c)
 			case 4:
-				x.Opt = junk()
+				x.Opt = sample.Junk(&c)
 			}
 		}
 		ask(t, l)
@@ -475,7 +397,7 @@ func TestWhatever(t *testing.T) {
 
 // R3: tasks that share their memory are taken each for itself; what is told does not hang on what becomes of the row later.
 func TestSharedMemory(t *testing.T) {
-	shared := words("l0 s l1 u1 u0 s m l2 u2")
+	shared := sample.Program("l0 s l1 u1 u0 s m l2 u2")
 	l := row("s", "s", "s")
 	for at := range l {
 		l[at].Main, l[at].Way = shared, shared[6:]

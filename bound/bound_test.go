@@ -4,75 +4,26 @@ import (
 	"math"
 	"reflect"
 	"slices"
-	"strconv"
 	"strings"
 	"testing"
 
 	"foliot/api"
 	"foliot/block"
+	"foliot/sample"
 	"foliot/task"
 )
 
-// words reads a program, a word an instruction: s (a Set), m (a Mark); with a number behind it k (a Skip), l and u (a Lock, an Unlock); r2x3 is a Rep whose body are 2 instructions, 3 times. An End is put behind it.
-func words(s string) []api.Inst {
-	var l []api.Inst
-	for _, w := range strings.Fields(s) {
-		first, second, _ := strings.Cut(w[1:], "x")
-		n, _ := strconv.Atoi(first)
-		times, _ := strconv.Atoi(second)
-		switch w[0] {
-		case 's':
-			l = append(l, api.Inst{Op: api.Set, A: 2, N: 3})
-		case 'm':
-			l = append(l, api.Inst{Op: api.Mark})
-		case 'k':
-			l = append(l, api.Inst{Op: api.Skip, A: 3, N: n})
-		case 'r':
-			l = append(l, api.Inst{Op: api.Rep, B: n, N: times})
-		case 'l':
-			l = append(l, api.Inst{Op: api.Lock, A: n})
-		case 'u':
-			l = append(l, api.Inst{Op: api.Unlock, A: n})
-		}
-	}
-	return append(l, api.Inst{})
-}
-
-// repeated is a word, n times.
-func repeated(n int, w string) string { return strings.Repeat(w+" ", n) }
-
-// ticks is a program that is so many ticks long, as far as a few instructions and one body, or the longest one, come to it.
-func ticks(n int) []api.Inst {
-	if n <= api.MaxCode {
-		return words(repeated(n-1, "s"))
-	}
-	if n == longest {
-		return words("r22x20 r21x20 " + repeated(21, "s"))
-	}
-	for body := 1; body <= 22; body++ {
-		for times := 1; times <= 20; times++ {
-			if rest := n - 2 - body*times; 0 <= rest && rest+body <= 22 {
-				return words("r" + strconv.Itoa(body) + "x" + strconv.Itoa(times) + " " + repeated(body+rest, "s"))
-			}
-		}
-	}
-	panic("no such program: " + strconv.Itoa(n))
-}
-
-// longest is how long a program is at most.
-const longest = 1 + 20*(1+20*21) + 1
-
 // sized is a task that is cost ticks long, and loses lost ticks at most (as long as its Way is).
 func sized(period, end int64, cost, lost int) api.Task {
-	return api.Task{Period: period, End: end, Main: ticks(cost), Way: ticks(lost)}
+	return api.Task{Period: period, End: end, Main: sample.Ticks(cost), Way: sample.Ticks(lost)}
 }
 
 // text is a task whose Main is in words; behind a comma its Way.
 func text(period, end int64, s string) api.Task {
 	main, way, isWay := strings.Cut(s, ",")
-	t := api.Task{Period: period, End: end, Main: words(main)}
+	t := api.Task{Period: period, End: end, Main: sample.Program(main)}
 	if isWay {
-		t.Way = words(way)
+		t.Way = sample.Program(way)
 	}
 	return t
 }
@@ -85,35 +36,6 @@ func row(l ...api.Task) []api.Task {
 	return l
 }
 
-// roomy is a copy of l with some room behind it and behind each program, in which there stands what would be reckoned otherwise.
-func roomy(l []api.Task) []api.Task {
-	room := func(x []api.Inst) []api.Inst {
-		return append(slices.Clone(x), words("l0 s u0 l1 s u1 l2 s u2 l3 s u3")...)[:len(x)]
-	}
-	all := append(slices.Clone(l), row(text(10, 10, "l0 s s s s s u0"), text(9, 9, "l1 s s s s s u1"))...)
-	for at := range all {
-		x := &all[at]
-		x.Main, x.Way, x.Opt = room(x.Main), room(x.Way), room(x.Opt)
-	}
-	return all[:len(l)]
-}
-
-// memory is a copy of all that stands in the memory of l and of its programs, spare room too.
-func memory(l []api.Task) []api.Task {
-	all := slices.Clone(l[:cap(l)])
-	for at := range all {
-		x := &all[at]
-		x.Main, x.Way, x.Opt = slices.Clone(x.Main[:cap(x.Main)]), slices.Clone(x.Way[:cap(x.Way)]), slices.Clone(x.Opt[:cap(x.Opt)])
-	}
-	return all
-}
-
-// numbers are places and distances, most of them none: below 0, beyond, where fewer bits end, and as far off as there are.
-var numbers = []int{
-	math.MinInt, math.MinInt + 1, -1 << 62, -1<<32 + 1, -1 << 32, math.MinInt32, -256, -255, -8, -2, -1,
-	0, 1, 2, 3, 4, 5, 7, 8, 9, 63, 64, 127, 128, 255, 256, 257, 1 << 14, 1 << 16, math.MaxInt32, 1 << 32, 1<<32 + 1, 1 << 62, math.MaxInt - 1, math.MaxInt,
-}
-
 // told is what Resp tells.
 type told struct {
 	r      int64
@@ -124,15 +46,15 @@ type told struct {
 // ask tells what Resp tells. It asks twice, and that l stays as it is.
 func ask(t *testing.T, l []api.Task, i int, apart int64) told {
 	t.Helper()
-	l = roomy(l)
-	same, was := slices.Clone(l), memory(l)
+	l = sample.Roomy(l)
+	same, was := slices.Clone(l), sample.Memory(l)
 	var got, again told
 	got.r, got.rounds, got.e = Resp(l, i, apart)
 	again.r, again.rounds, again.e = Resp(l, i, apart)
 	if got != again {
 		t.Errorf("%v at %d, %d apart: %v, then %v", l, i, apart, got, again)
 	}
-	if !reflect.DeepEqual(l, same) || !reflect.DeepEqual(memory(l), was) {
+	if !reflect.DeepEqual(l, same) || !reflect.DeepEqual(sample.Memory(l), was) {
 		t.Errorf("%v became %v", was, l)
 	}
 	if got.e != api.OK && got != (told{e: got.e}) {
@@ -181,7 +103,7 @@ const far = math.MaxInt64
 
 // P17.1: the helpers' tasks are as long, and lose as much, as they say.
 func TestHelpers(t *testing.T) {
-	for _, x := range [][2]int{{1, 1}, {2, 1}, {3, 3}, {24, 7}, {40, 25}, {99, 99}, {longest, 302}, {longest, longest}} {
+	for _, x := range [][2]int{{1, 1}, {2, 1}, {3, 3}, {24, 7}, {40, 25}, {99, 99}, {sample.Longest, 302}, {sample.Longest, sample.Longest}} {
 		cost, lost, _ := task.Costs(sized(api.MaxEnd, api.MaxEnd, x[0], x[1]))
 		if cost != int64(x[0]) || lost != int64(x[1]) {
 			t.Errorf("%v: %d %d", x, cost, lost)
@@ -251,12 +173,12 @@ func TestEnd(t *testing.T) {
 // P17.1: ends as far off as there are.
 func TestFarEnd(t *testing.T) {
 	want(t, row(sized(api.MaxEnd, api.MaxEnd, 1, 1)), 0, 1, no(api.EBound)) // it rises by one, as far as the end goes
-	want(t, row(sized(api.MaxEnd, api.MaxEnd, longest, longest)), 0, far, no(api.EBound))
-	for _, end := range []int64{longest, longest + 301} {
-		want(t, row(sized(api.MaxEnd, end, longest, 302)), 0, far, no(api.EBound))
+	want(t, row(sized(api.MaxEnd, api.MaxEnd, sample.Longest, sample.Longest)), 0, far, no(api.EBound))
+	for _, end := range []int64{sample.Longest, sample.Longest + 301} {
+		want(t, row(sized(api.MaxEnd, end, sample.Longest, 302)), 0, far, no(api.EBound))
 	}
-	for _, end := range []int64{longest + 302, longest + 303, api.MaxEnd} {
-		want(t, row(sized(api.MaxEnd, end, longest, 302)), 0, far, in(longest+302, 2))
+	for _, end := range []int64{sample.Longest + 302, sample.Longest + 303, api.MaxEnd} {
+		want(t, row(sized(api.MaxEnd, end, sample.Longest, 302)), 0, far, in(sample.Longest+302, 2))
 	}
 	for _, x := range []struct {
 		end  int64
@@ -265,7 +187,7 @@ func TestFarEnd(t *testing.T) {
 	}{ // 8422, 12905, 14893, 15887, 16384, 16384
 		{api.MaxEnd, 10, in(api.MaxEnd, 5)}, {api.MaxEnd - 1, 10, no(api.EBound)}, {api.MaxEnd, 11, no(api.EBound)},
 	} {
-		want(t, row(sized(1024, 1024, 382, 1), sized(1024, 1024, 115, 1), sized(api.MaxEnd, x.end, longest, x.lost)), 2, far, x.w)
+		want(t, row(sized(1024, 1024, 382, 1), sized(1024, 1024, 115, 1), sized(api.MaxEnd, x.end, sample.Longest, x.lost)), 2, far, x.w)
 	}
 }
 
@@ -360,7 +282,7 @@ func TestSeveralAhead(t *testing.T) {
 // P17.1: tasks behind come not at all: whatever they are, if they lock nothing.
 func TestBehind(t *testing.T) {
 	ahead := row(sized(10, 10, 2, 2), sized(40, 40, 9, 3))
-	for _, behind := range []api.Task{sized(1, 1, 1, 1), sized(9, 9, 9, 9), sized(api.MaxEnd, api.MaxEnd, longest, longest), sized(40, 40, 1, 1)} {
+	for _, behind := range []api.Task{sized(1, 1, 1, 1), sized(9, 9, 9, 9), sized(api.MaxEnd, api.MaxEnd, sample.Longest, sample.Longest), sized(40, 40, 1, 1)} {
 		l := row(ahead[0], ahead[1], behind)
 		for i := range 2 {
 			for apart := int64(1); apart < 40; apart++ {
@@ -441,8 +363,8 @@ func TestAllShort(t *testing.T) {
 					agree(t, row(first, sized(90, 30, cost, lost)), apart)
 				}
 				for apart := int64(1); apart <= 4; apart++ {
-					second := text(90, 25, "l2 u2 "+repeated(cost-1, "s"))
-					second.Way = ticks(lost)
+					second := text(90, 25, "l2 u2 "+sample.Repeated(cost-1, "s"))
+					second.Way = sample.Ticks(lost)
 					agree(t, row(first, second, behind), apart)
 				}
 			}
@@ -450,60 +372,39 @@ func TestAllShort(t *testing.T) {
 	}
 }
 
-// chance is a run of numbers that goes on from itself.
-type chance uint64
-
-func (c *chance) below(n int) int {
-	*c = *c*6364136223846793005 + 1442695040888963407
-	return int(uint64(*c)>>33) % n
-}
-
-// program is the words of some program: pieces, one behind the other.
-func program(c *chance, most int) string {
-	pieces := []string{
-		"s", "s", "m", "k2 s s", "r2x3 s s", "l0 u0", "l1 s u1", "l2 s s u2", "l3 s s s u3", "l3 l0 s u0 u3", "l1 s l2 u2 u1",
-		"r3x4 l1 s u1", "l2 r2x9 s s u2", "k3 l3 s u3", "l0 k1 s u0",
-	}
-	s := pieces[c.below(len(pieces))]
-	for range c.below(most) {
-		s += " " + pieces[c.below(len(pieces))]
-	}
-	return s
-}
-
 // tasks is a row of n tasks of such programs, which come about so often that it is enough, or just not.
-func tasks(c *chance, n int) []api.Task {
+func tasks(c *sample.Chance, n int) []api.Task {
 	var l []api.Task
 	for range n {
-		x := text(api.MaxEnd, api.MaxEnd, program(c, 4))
-		if way := words(program(c, 3)); c.below(2) == 0 {
+		x := text(api.MaxEnd, api.MaxEnd, sample.Pieces(c, 4))
+		if way := sample.Program(sample.Pieces(c, 3)); c.Below(2) == 0 {
 			x.Way = way
 		}
 		if task.May(x) != api.OK { // the Way is the longer one
 			x.Main, x.Way = x.Way, x.Main
 		}
 		cost, _, _ := task.Costs(x)
-		x.Period = cost*int64(1+c.below(3*n)) + int64(c.below(200))
-		x.End = x.Period - int64(c.below(int(x.Period-cost)+1))/2
+		x.Period = cost*int64(1+c.Below(3*n)) + int64(c.Below(200))
+		x.End = x.Period - int64(c.Below(int(x.Period-cost)+1))/2
 		l = append(l, x)
 	}
 	return row(l...)
 }
 
 // distance is how far hits are apart: near, far, or farther than all.
-func distance(c *chance) int64 {
-	switch c.below(5) {
+func distance(c *sample.Chance) int64 {
+	switch c.Below(5) {
 	case 0:
-		return far - int64(c.below(3))
+		return far - int64(c.Below(3))
 	case 1:
-		return int64(1 + c.below(20))
+		return int64(1 + c.Below(20))
 	}
-	return int64(1 + c.below(600))
+	return int64(1 + c.Below(600))
 }
 
 // P17.1: rows of some tasks, as many as may be.
 func TestSome(t *testing.T) {
-	c := chance(17)
+	c := sample.Chance(17)
 	all, oks := 0, 0
 	for n := range 1200 {
 		l := tasks(&c, n%(api.MaxTasks+1))
@@ -517,7 +418,7 @@ func TestSome(t *testing.T) {
 
 // 'What follows': it is the least r that is so; where there is none up to End, EBound.
 func TestLeast(t *testing.T) {
-	c := chance(5)
+	c := sample.Chance(5)
 	for n := range 600 {
 		l := tasks(&c, 1+n%api.MaxTasks)
 		apart := distance(&c)
@@ -539,10 +440,10 @@ func TestLeast(t *testing.T) {
 
 // 'What follows': with hits farther apart, less that is lost, or fewer tasks ahead, it is no more; a longer End changes nothing but EBound.
 func TestLess(t *testing.T) {
-	c := chance(6)
+	c := sample.Chance(6)
 	for n := range 600 {
 		l := tasks(&c, 1+n%api.MaxTasks)
-		i, apart := c.below(len(l)), distance(&c)
+		i, apart := c.Below(len(l)), distance(&c)
 		got := ask(t, l, i, apart)
 		longer := slices.Clone(l)
 		longer[i].Period, longer[i].End = api.MaxEnd, api.MaxEnd
@@ -569,7 +470,7 @@ func TestLess(t *testing.T) {
 
 // P17.1: apart as far as there is; apart just as far as it takes, and a tick less.
 func TestApart(t *testing.T) {
-	c := chance(8)
+	c := sample.Chance(8)
 	for n := range 150 {
 		l := tasks(&c, 1+n%api.MaxTasks)
 		for i := range l {
@@ -594,7 +495,7 @@ func TestNoPlace(t *testing.T) {
 	for n := range api.MaxTasks + 1 {
 		l := row(slices.Repeat([]api.Task{sized(100, 100, 5, 2)}, n)...)
 		isRight(t, l)
-		for _, x := range numbers {
+		for _, x := range sample.Numbers() {
 			if x < 0 || x >= n {
 				for _, apart := range []int64{-1, 0, 1, 50, far} {
 					want(t, l, x, apart, no(api.EArg))
@@ -640,12 +541,12 @@ func TestNoRow(t *testing.T) {
 			func(x *api.Task) { x.End = 101 },
 			func(x *api.Task) { x.Main = nil },
 			func(x *api.Task) { x.Main = x.Main[:2] },
-			func(x *api.Task) { x.Main = ticks(60); x.End = 59 },
-			func(x *api.Task) { x.Main = words("l0") },
-			func(x *api.Task) { x.Way = words("k1") },
-			func(x *api.Task) { x.Way = words("s s s s s s") },
-			func(x *api.Task) { x.Opt = words("l0 u0") },
-			func(x *api.Task) { x.Opt = words("m")[:1] },
+			func(x *api.Task) { x.Main = sample.Ticks(60); x.End = 59 },
+			func(x *api.Task) { x.Main = sample.Program("l0") },
+			func(x *api.Task) { x.Way = sample.Program("k1") },
+			func(x *api.Task) { x.Way = sample.Program("s s s s s s") },
+			func(x *api.Task) { x.Opt = sample.Program("l0 u0") },
+			func(x *api.Task) { x.Opt = sample.Program("m")[:1] },
 			func(x *api.Task) { *x = api.Task{} },
 		} {
 			l := fit()
@@ -686,7 +587,7 @@ func TestOtherWayRound(t *testing.T) {
 func TestOpt(t *testing.T) {
 	l := row(sized(100, 100, 3, 1), sized(100, 90, 4, 2))
 	for at := range l {
-		l[at].Opt = words("r20x20 " + repeated(20, "s"))
+		l[at].Opt = sample.Program("r20x20 " + sample.Repeated(20, "s"))
 	}
 	want(t, l, 0, far, in(4, 2))
 	want(t, l, 1, far, in(9, 2))
@@ -772,35 +673,29 @@ func TestTally(t *testing.T) {
 
 // R1 and R3: whatever there is in a row: no panic, nothing changed, the same again; EArg, if it is no row.
 func TestWhatever(t *testing.T) {
-	c := chance(3)
-	some := func() int { return numbers[c.below(len(numbers))] }
-	junk := func() []api.Inst {
-		l := make([]api.Inst, c.below(30))
-		for at := range l {
-			l[at] = api.Inst{Op: c.below(14) - 1, A: c.below(6) - 1, B: some(), N: some()}
-		}
-		return l
-	}
+	c := sample.Chance(3)
+	numbers := sample.Numbers()
+	some := func() int { return numbers[c.Below(len(numbers))] }
 	for n := range 1500 {
 		l := tasks(&c, n%(api.MaxTasks+3))
 		may := true
 		for at := range l {
 			x := &l[at]
-			switch c.below(16) {
+			switch c.Below(16) {
 			case 0:
 				x.Rank = some()
 			case 1:
 				x.Period, x.End = int64(some()), int64(some())
 			case 2:
-				x.Main = junk()
+				x.Main = sample.Junk(&c)
 			case 3:
-				x.Way = junk()
+				x.Way = sample.Junk(&c)
 			case 4:
-				x.Opt = junk()
+				x.Opt = sample.Junk(&c)
 			}
 			may = may && task.May(*x) == api.OK && (at == 0 || l[at-1].Rank < x.Rank)
 		}
-		for _, i := range []int{0, len(l) - 1, c.below(len(l) + 1), some()} {
+		for _, i := range []int{0, len(l) - 1, c.Below(len(l) + 1), some()} {
 			apart := int64(some())
 			got := ask(t, l, i, apart)
 			if wrong := !may || i < 0 || i >= len(l) || apart < 1; wrong != (got.e == api.EArg) {

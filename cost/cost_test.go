@@ -4,42 +4,12 @@ import (
 	"math"
 	"slices"
 	"strconv"
-	"strings"
 	"testing"
 
 	"foliot/api"
+	"foliot/sample"
 	"foliot/shape"
 )
-
-// words reads a program, a word an instruction: s (a Set), m (a Mark), e (an End); with a number behind it k (a Skip), l and u (a Lock, an Unlock); r2x3 is a Rep whose body are 2 instructions, 3 times. No End is put behind it.
-func words(s string) []api.Inst {
-	var l []api.Inst
-	for _, w := range strings.Fields(s) {
-		first, second, _ := strings.Cut(w[1:], "x")
-		n, _ := strconv.Atoi(first)
-		times, _ := strconv.Atoi(second)
-		switch w[0] {
-		case 's':
-			l = append(l, api.Inst{Op: api.Set, A: 1, N: -5})
-		case 'm':
-			l = append(l, api.Inst{Op: api.Mark})
-		case 'e':
-			l = append(l, api.Inst{Op: api.End})
-		case 'k':
-			l = append(l, api.Inst{Op: api.Skip, A: 3, N: n})
-		case 'r':
-			l = append(l, api.Inst{Op: api.Rep, B: n, N: times})
-		case 'l':
-			l = append(l, api.Inst{Op: api.Lock, A: n})
-		case 'u':
-			l = append(l, api.Inst{Op: api.Unlock, A: n})
-		}
-	}
-	return l
-}
-
-// repeated is a word, n times.
-func repeated(n int, w string) string { return strings.Repeat(w+" ", n) }
 
 // same tells whether two costs are one; no spans are one, nil or empty.
 func same(a, b api.Cost) bool {
@@ -49,7 +19,7 @@ func same(a, b api.Cost) bool {
 // want asks that Of tells that cost of the program.
 func want(t *testing.T, s string, c api.Cost) {
 	t.Helper()
-	if got, ok := Of(words(s)); !ok || !same(got, c) {
+	if got, ok := Of(sample.Words(s)); !ok || !same(got, c) {
 		t.Errorf("%q: %v %v, want %v", s, got, ok, c)
 	}
 }
@@ -104,7 +74,7 @@ func TestAllRep(t *testing.T) {
 	for n := 1; n <= 20; n++ {
 		for b := 1; b <= 22; b++ {
 			all := int64(1 + b*n + 1)
-			want(t, rep(b, n)+repeated(b, "s")+"e", api.Cost{All: all, Piece: all})
+			want(t, rep(b, n)+sample.Repeated(b, "s")+"e", api.Cost{All: all, Piece: all})
 		}
 	}
 }
@@ -112,19 +82,19 @@ func TestAllRep(t *testing.T) {
 // P7.1, All: none is passed over, in whatever a Skip stands.
 func TestAllSkip(t *testing.T) {
 	for s, all := range map[string]int64{
-		"k1 s e":                          3,
-		"k3 s s s e":                      5,
-		"s k2 s s s e":                    6,
-		"k1 s k1 s e":                     5,
-		"k3 k2 k1 s e":                    5,
-		"k22 " + repeated(22, "s") + " e": 24,
-		"k2 r1x20 s e":                    1 + 1 + 20 + 1,
-		"k3 s r1x3 s e":                   1 + 1 + 1 + 3 + 1,
-		"r2x3 k1 s e":                     1 + 3*2 + 1,
-		"r3x3 k1 s s e":                   1 + 3*3 + 1,
-		"r3x3 s k1 s e":                   1 + 3*3 + 1,
-		"r4x2 k3 r2x3 s s e":              1 + 2*(1+1+3*2) + 1,
-		"r6x2 k5 r3x3 k1 s s s e":         1 + 2*(1+1+3*3+1) + 1,
+		"k1 s e":                                 3,
+		"k3 s s s e":                             5,
+		"s k2 s s s e":                           6,
+		"k1 s k1 s e":                            5,
+		"k3 k2 k1 s e":                           5,
+		"k22 " + sample.Repeated(22, "s") + " e": 24,
+		"k2 r1x20 s e":                           1 + 1 + 20 + 1,
+		"k3 s r1x3 s e":                          1 + 1 + 1 + 3 + 1,
+		"r2x3 k1 s e":                            1 + 3*2 + 1,
+		"r3x3 k1 s s e":                          1 + 3*3 + 1,
+		"r3x3 s k1 s e":                          1 + 3*3 + 1,
+		"r4x2 k3 r2x3 s s e":                     1 + 2*(1+1+3*2) + 1,
+		"r6x2 k5 r3x3 k1 s s s e":                1 + 2*(1+1+3*3+1) + 1,
 	} {
 		want(t, s, api.Cost{All: all, Piece: all})
 	}
@@ -157,8 +127,8 @@ func TestPiece(t *testing.T) {
 	}
 	for n := range 23 {
 		for at := range n + 1 {
-			want(t, repeated(at, "s")+"m "+repeated(n-at, "s")+"e", api.Cost{All: int64(n + 2), Piece: int64(max(at, n-at) + 1)})
-			want(t, repeated(at, "m")+repeated(n-at, "s")+"e", api.Cost{All: int64(n + 1), Piece: int64(n - at + 1)})
+			want(t, sample.Repeated(at, "s")+"m "+sample.Repeated(n-at, "s")+"e", api.Cost{All: int64(n + 2), Piece: int64(max(at, n-at) + 1)})
+			want(t, sample.Repeated(at, "m")+sample.Repeated(n-at, "s")+"e", api.Cost{All: int64(n + 1), Piece: int64(n - at + 1)})
 		}
 	}
 }
@@ -195,13 +165,13 @@ func TestSpans(t *testing.T) {
 // P7.1: End alone, as many instructions as may be, and more.
 func TestEdges(t *testing.T) {
 	want(t, "e", api.Cost{All: 1, Piece: 1})
-	want(t, repeated(23, "s")+"e", api.Cost{All: 24, Piece: 24})
-	want(t, repeated(23, "m")+"e", api.Cost{All: 24, Piece: 1})
-	want(t, "l3 "+repeated(21, "s")+"u3 e", api.Cost{All: 24, Piece: 24, Spans: []api.Span{{Sema: 3, Len: 22}}})
-	want(t, repeated(11, "l0 u0")+"m e", api.Cost{All: 24, Piece: 23, Spans: slices.Repeat([]api.Span{{Sema: 0, Len: 1}}, 11)})
+	want(t, sample.Repeated(23, "s")+"e", api.Cost{All: 24, Piece: 24})
+	want(t, sample.Repeated(23, "m")+"e", api.Cost{All: 24, Piece: 1})
+	want(t, "l3 "+sample.Repeated(21, "s")+"u3 e", api.Cost{All: 24, Piece: 24, Spans: []api.Span{{Sema: 3, Len: 22}}})
+	want(t, sample.Repeated(11, "l0 u0")+"m e", api.Cost{All: 24, Piece: 23, Spans: slices.Repeat([]api.Span{{Sema: 0, Len: 1}}, 11)})
 	for _, w := range []string{"s", "m"} {
 		for _, n := range []int{24, 25, 255, 256, 1 << 16} {
-			refused(t, words(repeated(n, w)+"e"))
+			refused(t, sample.Words(sample.Repeated(n, w)+"e"))
 		}
 	}
 }
@@ -210,14 +180,14 @@ func TestEdges(t *testing.T) {
 func TestGreatest(t *testing.T) {
 	const two = 1 + 20*(1+20*21) + 1
 	const held = 1 + 20*(1+20*18) + 1
-	want(t, rep(22, 20)+repeated(22, "s")+"e", api.Cost{All: 442, Piece: 442})
-	want(t, rep(22, 20)+rep(21, 20)+repeated(21, "s")+"e", api.Cost{All: two, Piece: two})
-	want(t, rep(22, 20)+rep(21, 20)+"l0 "+repeated(19, "s")+"u0 e", api.Cost{All: two, Piece: two, Spans: []api.Span{{Sema: 0, Len: 20}}})
-	want(t, "l0 "+rep(19, 20)+rep(18, 20)+repeated(18, "s")+"u0 m e", api.Cost{All: 1 + held + 2, Piece: 1 + held + 1, Spans: []api.Span{{Sema: 0, Len: held}}})
-	refused(t, words(rep(22, 21)+repeated(22, "s")+"e"))
-	refused(t, words(rep(23, 20)+repeated(22, "s")+"e"))
-	refused(t, words(rep(21, 20)+rep(21, 20)+repeated(21, "s")+"e"))
-	refused(t, words("r3x2 r2x2 r1x2 s e"))
+	want(t, rep(22, 20)+sample.Repeated(22, "s")+"e", api.Cost{All: 442, Piece: 442})
+	want(t, rep(22, 20)+rep(21, 20)+sample.Repeated(21, "s")+"e", api.Cost{All: two, Piece: two})
+	want(t, rep(22, 20)+rep(21, 20)+"l0 "+sample.Repeated(19, "s")+"u0 e", api.Cost{All: two, Piece: two, Spans: []api.Span{{Sema: 0, Len: 20}}})
+	want(t, "l0 "+rep(19, 20)+rep(18, 20)+sample.Repeated(18, "s")+"u0 m e", api.Cost{All: 1 + held + 2, Piece: 1 + held + 1, Spans: []api.Span{{Sema: 0, Len: held}}})
+	refused(t, sample.Words(rep(22, 21)+sample.Repeated(22, "s")+"e"))
+	refused(t, sample.Words(rep(23, 20)+sample.Repeated(22, "s")+"e"))
+	refused(t, sample.Words(rep(21, 20)+rep(21, 20)+sample.Repeated(21, "s")+"e"))
+	refused(t, sample.Words("r3x2 r2x2 r1x2 s e"))
 }
 
 // P7.1: whatever may not be: no, and nothing beside it.
@@ -231,7 +201,7 @@ func TestNo(t *testing.T) {
 		"l0 e", "u0 e", "l0 u1 e", "l0 l0 u0 u0 e", "l0 l1 u0 u1 e", "l0 l1 l2 u2 u1 u0 e", "r1x2 l0 u0 e", "k1 l0 u0 e", "l0 r1x2 u0 e", // no pairs
 		"r1x2 m e", "k1 m e", "l0 m u0 e", "r3x2 l0 m u0 e", // a Mark in something
 	} {
-		refused(t, words(s))
+		refused(t, sample.Words(s))
 	}
 	for _, i := range []api.Inst{
 		{Op: -1}, {Op: 12}, {Op: math.MinInt}, {Op: math.MaxInt}, {Op: api.Set, A: 8}, {Op: api.Set, N: 1 << 31}, {Op: api.Shift, N: 64}, {Op: api.Narrow}, {Op: api.Mark, A: 1},
@@ -306,7 +276,7 @@ func check(t *testing.T, l []api.Inst) bool {
 
 // P7.1: all programs of a few instructions.
 func TestAllShort(t *testing.T) {
-	alphabet := words("s m e k1 k2 r1x2 r1x5 r2x1 r2x3 r3x2 r4x3 l0 l1 u0 u1")
+	alphabet := sample.Words("s m e k1 k2 r1x2 r1x5 r2x1 r2x3 r3x2 r4x3 l0 l1 u0 u1")
 	n := 0
 	var grow func(l []api.Inst, more int)
 	grow = func(l []api.Inst, more int) {
@@ -325,28 +295,20 @@ func TestAllShort(t *testing.T) {
 	}
 }
 
-// chance is a run of numbers that goes on from itself.
-type chance uint64
-
-func (c *chance) below(n int) int {
-	*c = *c*6364136223846793005 + 1442695040888963407
-	return int(uint64(*c)>>33) % n
-}
-
 // grown is a piece of a program that may be: at most so long, in so many bodies, with these held.
-func grown(c *chance, size, bodies int, held []int, top bool) []api.Inst {
+func grown(c *sample.Chance, size, bodies int, held []int, top bool) []api.Inst {
 	var l []api.Inst
-	for room := size; room > 0 && c.below(8) > 0; room = size - len(l) {
-		inner := c.below(room)
-		sema := c.below(api.MaxSemas)
-		switch kind := c.below(5); {
+	for room := size; room > 0 && c.Below(8) > 0; room = size - len(l) {
+		inner := c.Below(room)
+		sema := c.Below(api.MaxSemas)
+		switch kind := c.Below(5); {
 		case kind == 0 && inner > 0 && bodies < 2:
 			if body := grown(c, inner, bodies+1, held, false); len(body) > 0 {
-				l = append(append(l, api.Inst{Op: api.Rep, B: len(body), N: 1 + c.below(20)}), body...)
+				l = append(append(l, api.Inst{Op: api.Rep, B: len(body), N: 1 + c.Below(20)}), body...)
 			}
 		case kind == 1 && inner > 0:
 			if body := grown(c, inner, bodies, held, false); len(body) > 0 {
-				l = append(append(l, api.Inst{Op: api.Skip, A: c.below(8), N: len(body)}), body...)
+				l = append(append(l, api.Inst{Op: api.Skip, A: c.Below(8), N: len(body)}), body...)
 			}
 		case kind == 2 && inner > 0 && len(held) < 2 && !slices.Contains(held, sema):
 			l = append(l, api.Inst{Op: api.Lock, A: sema})
@@ -355,7 +317,7 @@ func grown(c *chance, size, bodies int, held []int, top bool) []api.Inst {
 		case kind == 3 && top:
 			l = append(l, api.Inst{Op: api.Mark})
 		default:
-			l = append(l, api.Inst{Op: api.Mul, A: c.below(8), B: c.below(8)})
+			l = append(l, api.Inst{Op: api.Mul, A: c.Below(8), B: c.Below(8)})
 		}
 	}
 	return l
@@ -363,15 +325,15 @@ func grown(c *chance, size, bodies int, held []int, top bool) []api.Inst {
 
 // P7.1: programs that are grown as shape has it; with one instruction turned, left out or put in, they are reckoned or refused.
 func TestGrown(t *testing.T) {
-	c := chance(7)
-	alphabet := words("s m e k1 k2 k3 k5 r1x2 r2x3 r3x20 r5x1 l0 l1 l2 l3 u0 u1 u2 u3")
+	c := sample.Chance(7)
+	alphabet := sample.Words("s m e k1 k2 k3 k5 r1x2 r2x3 r3x20 r5x1 l0 l1 l2 l3 u0 u1 u2 u3")
 	for range 5000 {
 		l := append(grown(&c, 23, 0, nil, true), api.Inst{})
 		if !check(t, l) {
 			t.Fatalf("%v: it may be", l)
 		}
-		at := c.below(len(l))
-		i := alphabet[c.below(len(alphabet))]
+		at := c.Below(len(l))
+		i := alphabet[c.Below(len(alphabet))]
 		turned := slices.Clone(l)
 		turned[at] = i
 		check(t, turned)
@@ -428,8 +390,8 @@ func run(l []api.Inst, skip func() bool) (all, piece int64, held map[int]int) {
 
 // 'What follows': no run is longer, nor any piece or span of it, and one that passes nothing over is just as long.
 func TestNoRunIsLonger(t *testing.T) {
-	c := chance(1)
-	some := func() bool { return c.below(2) == 0 }
+	c := sample.Chance(1)
+	some := func() bool { return c.Below(2) == 0 }
 	for range 3000 {
 		l := append(grown(&c, 23, 0, nil, true), api.Inst{})
 		cost, ok := Of(l)
@@ -460,20 +422,20 @@ func TestNoRunIsLonger(t *testing.T) {
 
 // R1 and R3: whatever there is: no panic, nothing handed in is changed, its spare room too, and nothing beside a no.
 func TestWhatever(t *testing.T) {
-	c := chance(3)
+	c := sample.Chance(3)
 	numbers := []int{math.MinInt, math.MinInt + 1, -25, -24, -1, 0, 1, 2, 3, 4, 20, 23, 24, 25, 1 << 31, math.MaxInt - 1, math.MaxInt}
 	for range 20000 {
 		full := make([]api.Inst, 40)
 		for at := range full {
-			full[at] = api.Inst{Op: c.below(14) - 1, A: c.below(5) - 1, B: numbers[c.below(len(numbers))], N: numbers[c.below(len(numbers))]}
+			full[at] = api.Inst{Op: c.Below(14) - 1, A: c.Below(5) - 1, B: numbers[c.Below(len(numbers))], N: numbers[c.Below(len(numbers))]}
 		}
 		was := slices.Clone(full)
-		check(t, full[:c.below(len(full)+1)])
+		check(t, full[:c.Below(len(full)+1)])
 		if !slices.Equal(full, was) {
 			t.Fatalf("%v became %v", was, full)
 		}
 	}
-	full := slices.Concat(words("l0 r3x4 l1 s u1 u0 m k2 l2 u2 e"), words("m l3 e"))
+	full := slices.Concat(sample.Words("l0 r3x4 l1 s u1 u0 m k2 l2 u2 e"), sample.Words("m l3 e"))
 	was := slices.Clone(full)
 	if !check(t, full[:11]) || !slices.Equal(full, was) {
 		t.Errorf("%v became %v", was, full)
@@ -482,7 +444,7 @@ func TestWhatever(t *testing.T) {
 
 // R3 and R4: what is told is new memory, so whatever becomes of it, the same again tells the same.
 func TestSameAgain(t *testing.T) {
-	l := words("l0 r3x4 l1 s u1 u0 m k2 l2 u2 e")
+	l := sample.Words("l0 r3x4 l1 s u1 u0 m k2 l2 u2 e")
 	for range 3 {
 		c, ok := Of(l)
 		if !ok || !same(c, api.Cost{All: 20, Piece: 16, Spans: []api.Span{{Sema: 0, Len: 14}, {Sema: 1, Len: 2}, {Sema: 2, Len: 1}}}) {

@@ -3,71 +3,18 @@ package task
 import (
 	"math"
 	"slices"
-	"strconv"
 	"strings"
 	"testing"
 
 	"foliot/api"
 	"foliot/cost"
+	"foliot/sample"
 	"foliot/shape"
 )
 
-// words reads a program, a word an instruction: s (a Set), m (a Mark), e (an End); with a number behind it k (a Skip), l and u (a Lock, an Unlock); r2x3 is a Rep whose body are 2 instructions, 3 times. No End is put behind it; no words are no program.
-func words(s string) []api.Inst {
-	var l []api.Inst
-	for _, w := range strings.Fields(s) {
-		first, second, _ := strings.Cut(w[1:], "x")
-		n, _ := strconv.Atoi(first)
-		times, _ := strconv.Atoi(second)
-		switch w[0] {
-		case 's':
-			l = append(l, api.Inst{Op: api.Set, A: 1, N: -5})
-		case 'm':
-			l = append(l, api.Inst{Op: api.Mark})
-		case 'e':
-			l = append(l, api.Inst{Op: api.End})
-		case 'k':
-			l = append(l, api.Inst{Op: api.Skip, A: 3, N: n})
-		case 'r':
-			l = append(l, api.Inst{Op: api.Rep, B: n, N: times})
-		case 'l':
-			l = append(l, api.Inst{Op: api.Lock, A: n})
-		case 'u':
-			l = append(l, api.Inst{Op: api.Unlock, A: n})
-		}
-	}
-	return l
-}
-
-// repeated is a word, n times.
-func repeated(n int, w string) string { return strings.Repeat(w+" ", n) }
-
-// ticks is a program that is so many ticks long, as far as a few instructions and one body come to it.
-func ticks(n int) []api.Inst {
-	if n <= api.MaxCode {
-		return words(repeated(n-1, "s") + "e")
-	}
-	for body := 1; body <= 22; body++ {
-		for times := 1; times <= 20; times++ {
-			if rest := n - 2 - body*times; 0 <= rest && rest+body <= 22 {
-				return words(rep(body, times) + repeated(body+rest, "s") + "e")
-			}
-		}
-	}
-	panic("no such program: " + strconv.Itoa(n))
-}
-
-// rep is the word of a Rep.
-func rep(b, n int) string { return "r" + strconv.Itoa(b) + "x" + strconv.Itoa(n) + " " }
-
-// longest is the longest program that there is, and how long it is.
-func longest() ([]api.Inst, int64) {
-	return words(rep(22, 20) + rep(21, 20) + repeated(21, "s") + "e"), 1 + 20*(1+20*21) + 1
-}
-
 // of is a task of rank 5 whose Period and End are so far off, with these programs.
 func of(period, end int64, main, way, opt string) api.Task {
-	return api.Task{Rank: 5, Period: period, End: end, Main: words(main), Way: words(way), Opt: words(opt)}
+	return api.Task{Rank: 5, Period: period, End: end, Main: sample.Words(main), Way: sample.Words(way), Opt: sample.Words(opt)}
 }
 
 // ordinary is a task that may be, with all there is in it.
@@ -79,13 +26,13 @@ func ordinary() api.Task {
 func wrong() [][]api.Inst {
 	var all [][]api.Inst
 	for _, s := range []string{
-		"s", "s s", "m", "l0 u0", "e e", "s e s e", "e s", repeated(24, "s") + "e", repeated(300, "s") + "e",
+		"s", "s s", "m", "l0 u0", "e e", "s e s e", "e s", sample.Repeated(24, "s") + "e", sample.Repeated(300, "s") + "e",
 		"k1 e", "k2 s e", "r1x2 e", "r24x20 e", "r2x2 s r1x2 s e", "k2 s k1 s e", "r1x2 k1 s e", "r3x2 r2x2 r1x2 s e",
 		"r1x0 s e", "r1x21 s e", "r0x2 s e", "r25x2 s e", "k0 s e", "k25 s e", "l4 u4 e",
 		"l0 e", "u0 e", "l0 u1 e", "l0 l0 u0 u0 e", "l0 l1 u0 u1 e", "l0 l1 l2 u2 u1 u0 e", "r1x2 l0 u0 e", "k1 l0 u0 e", "l0 r1x2 u0 e",
 		"r1x2 m e", "k1 m e", "l0 m u0 e",
 	} {
-		all = append(all, words(s))
+		all = append(all, sample.Words(s))
 	}
 	for _, i := range []api.Inst{
 		{Op: -1}, {Op: 12}, {Op: math.MinInt}, {Op: math.MaxInt}, {Op: api.Set, A: 8}, {Op: api.Set, N: 1 << 31}, {Op: api.Shift, N: 64}, {Op: api.Narrow}, {Op: api.Mark, A: 1},
@@ -129,7 +76,7 @@ func judged(t api.Task) api.Errno {
 // roomy is a copy of t, each program in memory of its own with some room behind it, in which more instructions stand.
 func roomy(t api.Task) api.Task {
 	room := func(l []api.Inst) []api.Inst {
-		x := append(slices.Clone(l), words("l3 s u3 e")...)
+		x := append(slices.Clone(l), sample.Words("l3 s u3 e")...)
 		return x[:len(l)]
 	}
 	t.Main, t.Way, t.Opt = room(t.Main), room(t.Way), room(t.Opt)
@@ -168,8 +115,8 @@ func TestMay(t *testing.T) {
 		for _, way := range []string{"", "e", "s e", "m e", "l0 u0 e", "r1x1 s e", "k1 s e", main} {
 			for _, opt := range []string{"", "e", "s s m s e", "r3x20 s k1 s e", "m k2 s s m e", main} {
 				e := api.OK
-				m, _ := cost.Of(words(main))
-				if w, ok := cost.Of(words(way)); ok && w.All > m.All {
+				m, _ := cost.Of(sample.Words(main))
+				if w, ok := cost.Of(sample.Words(way)); ok && w.All > m.All {
 					e = api.EBackup
 				}
 				if strings.Contains(opt, "l") {
@@ -183,9 +130,9 @@ func TestMay(t *testing.T) {
 
 // P15.1, May: no list and an empty one are no program: there must be a Main, not a Way or an Opt.
 func TestNoProgram(t *testing.T) {
-	none := [][]api.Inst{nil, {}, words("s e")[:0]}
+	none := [][]api.Inst{nil, {}, sample.Words("s e")[:0]}
 	for _, no := range none {
-		for _, l := range append(none, words("s e")) {
+		for _, l := range append(none, sample.Words("s e")) {
 			x := of(40, 30, "s e", "", "")
 			x.Way, x.Opt = no, l
 			want(t, x, api.OK)
@@ -280,9 +227,9 @@ func TestLockInOpt(t *testing.T) {
 		"l0 u0 e", "l1 s s u1 s m e", "s s m l2 s u2 e", "s l3 u3 s e", // first, last, between
 		"r2x2 l0 u0 e", "r4x3 s l1 u1 s e", "r5x2 r4x2 l2 s s u2 e", "k2 l0 u0 e", "k4 s r2x2 l1 u1 e", // in a body, a reach
 		"l0 l1 u1 u0 e", "l0 u0 l1 u1 e", "l0 r1x3 s u0 e", "r1x3 s k1 s m l0 u0 e", // more than one, and what else there is
-		"l0 " + repeated(21, "s") + "u0 e", repeated(21, "s") + "l3 u3 e",
+		"l0 " + sample.Repeated(21, "s") + "u0 e", sample.Repeated(21, "s") + "l3 u3 e",
 	} {
-		l := words(s)
+		l := sample.Words(s)
 		x := of(600, 500, "s e", "e", "s e")
 		x.Opt = l
 		want(t, x, api.EForm)
@@ -299,7 +246,7 @@ func TestLongerThanEnd(t *testing.T) {
 		for by := int64(-2); by <= 2; by++ {
 			end := int64(n) + by
 			x := of(end, end, "", "", "")
-			x.Main = ticks(n)
+			x.Main = sample.Ticks(n)
 			e := api.OK
 			if end < 1 {
 				e = api.EPeriod
@@ -308,11 +255,11 @@ func TestLongerThanEnd(t *testing.T) {
 			}
 			want(t, x, e)
 			x.Period = api.MaxEnd
-			x.Way = ticks(n)
+			x.Way = sample.Ticks(n)
 			want(t, x, e)
 		}
 	}
-	main, n := longest()
+	main, n := sample.Ticks(sample.Longest), int64(sample.Longest)
 	for by, e := range []api.Errno{api.ECost, api.OK, api.OK} {
 		x := of(api.MaxEnd, n-1+int64(by), "", "", "")
 		x.Main = main
@@ -329,7 +276,7 @@ func TestWhatIsLong(t *testing.T) {
 		want(t, of(100, n-1, s, "e", "e"), api.ECost)
 	}
 	x := of(1, 1, "e", "e", "")
-	x.Opt, _ = longest()
+	x.Opt = sample.Ticks(sample.Longest)
 	want(t, x, api.OK)
 }
 
@@ -338,18 +285,18 @@ func TestLongerWay(t *testing.T) {
 	for n := 1; n <= 60; n++ {
 		for way := max(1, n-2); way <= n+2; way++ {
 			x, e := of(api.MaxEnd, api.MaxEnd, "", "", "s e"), api.OK
-			x.Main, x.Way = ticks(n), ticks(way)
+			x.Main, x.Way = sample.Ticks(n), sample.Ticks(way)
 			if way > n {
 				e = api.EBackup
 			}
 			want(t, x, e)
 		}
 	}
-	most, n := longest()
+	most, n := sample.Ticks(sample.Longest), int64(sample.Longest)
 	x := of(api.MaxEnd, n, "", "", "")
 	x.Main, x.Way = most, most
 	want(t, x, api.OK)
-	x.Main = words(rep(22, 20) + rep(20, 20) + repeated(21, "s") + "e")
+	x.Main = sample.Words("r22x20 r20x20 " + sample.Repeated(21, "s") + "e")
 	want(t, x, api.EBackup)
 	for _, x := range []struct {
 		main, way string
@@ -383,9 +330,9 @@ func faults() []struct {
 		{api.EForm, func(t *api.Task) { t.Main = nil }},
 		{api.EForm, func(t *api.Task) { bad(&t.Way) }},
 		{api.EForm, func(t *api.Task) { bad(&t.Opt) }},
-		{api.EForm, func(t *api.Task) { t.Opt = append(words("l0 u0"), t.Opt...) }},
-		{api.ECost, func(t *api.Task) { t.Main = ticks(41) }},
-		{api.EBackup, func(t *api.Task) { t.Way = ticks(42) }},
+		{api.EForm, func(t *api.Task) { t.Opt = append(sample.Words("l0 u0"), t.Opt...) }},
+		{api.ECost, func(t *api.Task) { t.Main = sample.Ticks(41) }},
+		{api.EBackup, func(t *api.Task) { t.Way = sample.Ticks(42) }},
 	}
 }
 
@@ -429,10 +376,10 @@ func TestCosts(t *testing.T) {
 		costs(t, of(40, 30, x.main, x.way, "r3x9 s s s m s s s e"), x.c, x.lost, nil) // what the Opt is counts nothing
 	}
 	x := of(api.MaxEnd, api.MaxEnd, "", "", "")
-	most, n := longest()
+	most, n := sample.Ticks(sample.Longest), int64(sample.Longest)
 	x.Main = most
 	costs(t, x, n, n, nil)
-	x.Way = words("s e")
+	x.Way = sample.Words("s e")
 	costs(t, x, n, 2, nil)
 	x.Way = most
 	costs(t, x, n, n, nil)
@@ -459,7 +406,7 @@ func TestSpans(t *testing.T) {
 		costs(t, of(40, 30, x.main, x.way, ""), x.c, x.lost, x.spans)
 		costs(t, of(40, 30, x.main, x.way, "s m s e"), x.c, x.lost, x.spans)
 	}
-	lock := words(repeated(11, "l0 u0") + "m e")
+	lock := sample.Words(sample.Repeated(11, "l0 u0") + "m e")
 	x := of(40, 30, "", "", "")
 	x.Main, x.Way = lock, lock
 	costs(t, x, 24, 24, slices.Repeat([]api.Span{{Sema: 0, Len: 1}}, 22))
@@ -476,28 +423,20 @@ func TestNoCosts(t *testing.T) {
 	}
 }
 
-// chance is a run of numbers that goes on from itself.
-type chance uint64
-
-func (c *chance) below(n int) int {
-	*c = *c*6364136223846793005 + 1442695040888963407
-	return int(uint64(*c)>>33) % n
-}
-
 // grown is a piece of a program that may be: at most so long, in so many bodies, with these held.
-func grown(c *chance, size, bodies int, held []int, top bool) []api.Inst {
+func grown(c *sample.Chance, size, bodies int, held []int, top bool) []api.Inst {
 	var l []api.Inst
-	for room := size; room > 0 && c.below(8) > 0; room = size - len(l) {
-		inner := c.below(room)
-		sema := c.below(api.MaxSemas)
-		switch kind := c.below(5); {
+	for room := size; room > 0 && c.Below(8) > 0; room = size - len(l) {
+		inner := c.Below(room)
+		sema := c.Below(api.MaxSemas)
+		switch kind := c.Below(5); {
 		case kind == 0 && inner > 0 && bodies < 2:
 			if body := grown(c, inner, bodies+1, held, false); len(body) > 0 {
-				l = append(append(l, api.Inst{Op: api.Rep, B: len(body), N: 1 + c.below(4)}), body...)
+				l = append(append(l, api.Inst{Op: api.Rep, B: len(body), N: 1 + c.Below(4)}), body...)
 			}
 		case kind == 1 && inner > 0:
 			if body := grown(c, inner, bodies, held, false); len(body) > 0 {
-				l = append(append(l, api.Inst{Op: api.Skip, A: c.below(8), N: len(body)}), body...)
+				l = append(append(l, api.Inst{Op: api.Skip, A: c.Below(8), N: len(body)}), body...)
 			}
 		case kind == 2 && inner > 0 && len(held) < 2 && !slices.Contains(held, sema):
 			l = append(l, api.Inst{Op: api.Lock, A: sema})
@@ -506,15 +445,15 @@ func grown(c *chance, size, bodies int, held []int, top bool) []api.Inst {
 		case kind == 3 && top:
 			l = append(l, api.Inst{Op: api.Mark})
 		default:
-			l = append(l, api.Inst{Op: api.Mul, A: c.below(8), B: c.below(8)})
+			l = append(l, api.Inst{Op: api.Mul, A: c.Below(8), B: c.Below(8)})
 		}
 	}
 	return l
 }
 
 // program is a program that may be; now and then none.
-func program(c *chance) []api.Inst {
-	if c.below(4) == 0 {
+func program(c *sample.Chance) []api.Inst {
+	if c.Below(4) == 0 {
 		return nil
 	}
 	return append(grown(c, 23, 0, nil, true), api.Inst{})
@@ -522,11 +461,11 @@ func program(c *chance) []api.Inst {
 
 // P15.1: tasks of programs that may be: what May tells of each, what Costs tells of those that may be, and 'What follows': another way is no longer than the first one.
 func TestGrown(t *testing.T) {
-	c := chance(5)
+	c := sample.Chance(5)
 	told := map[api.Errno]int{}
 	for range 20000 {
-		x := api.Task{Rank: c.below(66) - 1, Period: int64(c.below(60)), Main: program(&c), Way: program(&c), Opt: program(&c)}
-		x.End = int64(c.below(int(x.Period) + 2))
+		x := api.Task{Rank: c.Below(66) - 1, Period: int64(c.Below(60)), Main: program(&c), Way: program(&c), Opt: program(&c)}
+		x.End = int64(c.Below(int(x.Period) + 2))
 		e := judged(x)
 		told[e]++
 		want(t, x, e)
@@ -553,12 +492,12 @@ func TestGrown(t *testing.T) {
 
 // R1 and R3: whatever there is in a task: no panic, nothing handed in is changed, its spare room too, and nothing beside an error.
 func TestWhatever(t *testing.T) {
-	c := chance(3)
-	some := func() int { return int(numbers[c.below(len(numbers))]) }
+	c := sample.Chance(3)
+	some := func() int { return int(numbers[c.Below(len(numbers))]) }
 	junk := func() []api.Inst {
-		l := make([]api.Inst, c.below(40))
+		l := make([]api.Inst, c.Below(40))
 		for at := range l {
-			l[at] = api.Inst{Op: c.below(14) - 1, A: c.below(5) - 1, B: some(), N: some()}
+			l[at] = api.Inst{Op: c.Below(14) - 1, A: c.Below(5) - 1, B: some(), N: some()}
 		}
 		return l
 	}
@@ -567,11 +506,11 @@ func TestWhatever(t *testing.T) {
 		want(t, x, judged(x))
 		x.Rank, x.Period, x.End = 5, api.MaxEnd, api.MaxEnd
 		want(t, x, judged(x))
-		x.Main = words("s e")
+		x.Main = sample.Words("s e")
 		want(t, x, judged(x))
 	}
 	long := make([]api.Inst, 1<<20)
-	for _, x := range []api.Task{{Main: long}, {Main: words("e"), Way: long}, {Main: words("e"), Opt: long}} {
+	for _, x := range []api.Task{{Main: long}, {Main: sample.Words("e"), Way: long}, {Main: sample.Words("e"), Opt: long}} {
 		x.Period, x.End = 5, 5
 		want(t, x, api.EForm)
 	}
@@ -579,7 +518,7 @@ func TestWhatever(t *testing.T) {
 
 // R3 and R4: what is told is new memory, so whatever becomes of it, the same again tells the same; and programs that share their memory are taken each for itself.
 func TestSameAgain(t *testing.T) {
-	shared := words("l0 s l1 u1 u0 s m e")
+	shared := sample.Words("l0 s l1 u1 u0 s m e")
 	x := of(40, 30, "", "", "")
 	x.Main, x.Way, x.Opt = shared, shared[5:], shared[5:]
 	for _, way := range [][]api.Inst{nil, shared[5:], shared} {
